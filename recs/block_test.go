@@ -64,7 +64,7 @@ func TestSum(t *testing.T) { // P3.10
 	}
 }
 
-func TestSumFromManyAtOnce(t *testing.T) { // P3.10: the table's first use may be by several
+func TestSumFromManyAtOnce(t *testing.T) { // P3.10: sums that go on beside one another
 	var all sync.WaitGroup
 	for range 16 {
 		all.Go(func() {

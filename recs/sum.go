@@ -5,28 +5,29 @@ import "sync"
 // polynomial is 0x04C11DB7 with its bits turned round, since the bits of each byte go from the lowest on.
 const polynomial = 0xEDB88320
 
-// sums holds, for each byte, what it adds to a sum; it is filled at the first use.
-var sums = struct {
-	once  sync.Once
-	table [256]uint32
-}{}
+// sumTable holds, for each byte, what it adds to a sum.
+type sumTable [256]uint32
 
 // Sum is the CRC-32 of bytes.
 func Sum(b []byte) uint32 {
-	sums.once.Do(fillSums)
+	// The table is the call's own, since nothing at package level may be filled; no bytes, no table.
+	var once sync.Once
+	var table sumTable
 	sum := ^uint32(0)
 	for _, x := range b {
-		sum = sums.table[byte(sum)^x] ^ sum>>8
+		once.Do(func() { table.fill() })
+		sum = table[byte(sum)^x] ^ sum>>8
 	}
 	return ^sum
 }
 
-func fillSums() {
-	for i := range sums.table {
-		sum := uint32(i)
-		for range 8 {
-			sum = sum>>1 ^ polynomial*(sum&1)
+// fill takes the bits of a byte one by one, from the highest on, as what a byte adds is what its bits add: so a small block's table costs no more than its sum.
+func (t *sumTable) fill() {
+	word := uint32(polynomial)
+	for bit := len(t) / 2; bit > 0; bit /= 2 {
+		for i := 0; i < len(t); i += 2 * bit {
+			t[i+bit] = t[i] ^ word
 		}
-		sums.table[i] = sum
+		word = word>>1 ^ polynomial*(word&1)
 	}
 }
