@@ -295,6 +295,9 @@ func folders(t *testing.T, root string) []string {
 		if d.IsDir() && path != root && (name[0] == '.' || name == "sharedtests" || name == "rules") {
 			return filepath.SkipDir
 		}
+		if ext := filepath.Ext(name); ext == ".test" || ext == ".out" {
+			t.Errorf("%s: a file that a tool has left", path)
+		}
 		if dir := filepath.Dir(path); dir != filepath.Clean(root) && !d.IsDir() {
 			if filepath.Ext(name) != ".go" {
 				t.Errorf("%s: a file that is not Go", path)
