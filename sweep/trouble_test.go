@@ -99,9 +99,6 @@ func (p plot) try(b bench, troubles ...api.Trouble) api.Errno {
 	return e
 }
 
-// steps are some of n numbers, all of them if they are few.
-func steps(n int) int { return 1 + n/400 }
-
 // TestTroubleAtEachCall: a fault, or the power off, at each numbered call. G7, As before.
 func TestTroubleAtEachCall(t *testing.T) {
 	for _, p := range plots() {
@@ -112,7 +109,7 @@ func TestTroubleAtEachCall(t *testing.T) {
 		}
 		calls := calm.Disk().Counts().Calls
 		kept := 0 // faults that befell a Delete
-		for at := 0; at < calls; at += steps(calls) {
+		for at := range calls {
 			fault := api.Trouble{At: at, Kind: api.TrFault}
 			if e := p.try(mount(t, was, free, fault), fault); e == p.e {
 				kept++
@@ -132,7 +129,7 @@ func TestTroubleAtEachCall(t *testing.T) {
 	}
 }
 
-// TestBehindAFault: from the first refusal on nothing is asked but Deletes, which no fault befalls; where the power goes off in one of them, that is told. G7.
+// TestBehindAFault, of every seventh call: from the first refusal on nothing is asked but Deletes, which no fault befalls; where the power goes off in one of them, that is told. G7.
 func TestBehindAFault(t *testing.T) {
 	off := 0
 	for _, p := range plots() {
@@ -140,7 +137,7 @@ func TestBehindAFault(t *testing.T) {
 		calm := mount(t, was, free)
 		p.try(calm)
 		calls := calm.Disk().Counts().Calls
-		for at := 0; at < calls; at += 7 * steps(calls) {
+		for at := 0; at < calls; at += 7 {
 			fault := api.Trouble{At: at, Kind: api.TrFault}
 			b := mount(t, was, free, fault)
 			if e := p.try(b, fault); e != api.ErrFault {
@@ -180,7 +177,7 @@ func TestFullDisk(t *testing.T) {
 		if most == 0 && !p.still {
 			t.Fatalf("%s: no block is used", p.what)
 		}
-		for room := 0; room < most; room += steps(most) {
+		for room := range most {
 			if e := p.try(mountSmall(t, was, free, room)); e != api.ErrFull {
 				t.Fatalf("%s: %d blocks free, %d are enough: %d", p.what, room, most, e)
 			}
@@ -252,7 +249,7 @@ func TestEachBit(t *testing.T) {
 		was := holds(t, k, append(files(x.lists[:]...), arcs(inner, outer)...)...)
 		jobs := []job{x.two(api.OpOr, 0, 1), x.three(0, 0, 2), x.fix(0, []api.Lit{{Level: 0}}), x.quant(0, 1, true), x.swap(0, 0)}
 		for i := range (len(x.lists[0]) + k - 1) / k {
-			for bit := 0; bit < 8*was.Block; bit += 1 + bit%3 {
+			for bit := range 8 * was.Block {
 				b := mount(t, was, api.LeastK*k)
 				b.Disk().Spoil("f", i, bit)
 				for _, j := range jobs {
