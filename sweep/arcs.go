@@ -7,11 +7,12 @@ import (
 	"strata/api"
 	"strata/recs"
 	"strata/tape"
+	"strata/whole"
 )
 
 // Arcs are the arcs of an unreduced diagram, and what ends it.
 func Arcs(k *tape.Desk, out string) ([]api.Arc, api.Info, api.Errno) {
-	if e := ready(k, api.OK, []string{Inner(out), Outer(out)}, nil); e != api.OK {
+	if e := whole.Ready(k, api.OK, []string{Inner(out), Outer(out)}, nil); e != api.OK {
 		return nil, api.Info{}, e
 	}
 	end, some, e := k.Last(Outer(out), api.KindOuter)

@@ -5,6 +5,7 @@ import (
 
 	"strata/api"
 	"strata/tape"
+	"strata/whole"
 )
 
 // Lay writes arcs as the two tapes.
@@ -16,7 +17,7 @@ func Lay(k *tape.Desk, list []api.Arc, info api.Info, out string) api.Errno {
 	if !areSound(from, info, headsOf(to)) {
 		wrong = api.ErrArcs
 	}
-	if e := ready(k, wrong, nil, []string{Inner(out), Outer(out)}); e != api.OK {
+	if e := whole.Ready(k, wrong, nil, []string{Inner(out), Outer(out)}); e != api.OK {
 		return e
 	}
 	e := layTape(k, Inner(out), api.KindInner, func(w *tape.Writer) api.Errno { return putInner(w, to) })
@@ -24,9 +25,9 @@ func Lay(k *tape.Desk, list []api.Arc, info api.Info, out string) api.Errno {
 		e = layTape(k, Outer(out), api.KindOuter, func(w *tape.Writer) api.Errno { return putOuter(w, from, info) })
 	}
 	if e != api.OK {
-		remove(k, Inner(out), Outer(out))
+		whole.Remove(k, Inner(out), Outer(out))
 	}
-	return outcome(k, e)
+	return whole.Outcome(k, e)
 }
 
 // headsOf is how many nodes arcs go to, which are by their To.

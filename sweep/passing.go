@@ -4,6 +4,7 @@ import (
 	"strata/api"
 	"strata/pqueue"
 	"strata/tape"
+	"strata/whole"
 )
 
 // passing keeps who has come to the states that are only passed on, until it is known what becomes of these. Each such state waits on as one, however many have come to it: else they would all have to wait anew at each stop that they come through.
@@ -27,7 +28,7 @@ func (p *passing) shut() {
 		return
 	}
 	p.arrivals.Drop()
-	remove(p.desk, p.name) // one that was closed already
+	whole.Remove(p.desk, p.name) // one that was closed already
 }
 
 // keep notes that one has come to a state.

@@ -5,12 +5,13 @@ import (
 	"strata/pqueue"
 	"strata/sorter"
 	"strata/tape"
+	"strata/whole"
 )
 
 // run makes the two tapes of a plan; if that is refused, neither is there.
 func run(k *tape.Desk, vars int, p plan, out string) api.Errno {
 	if !p.passes {
-		return outcome(k, p.descend(k, vars, Inner(out), Outer(out)))
+		return whole.Outcome(k, p.descend(k, vars, Inner(out), Outer(out)))
 	}
 	// What has become of a state that is passed on is known late: the arcs do not come in their order.
 	inner, outer := k.Temp(), k.Temp()
@@ -21,30 +22,15 @@ func run(k *tape.Desk, vars int, p plan, out string) api.Errno {
 	if e == api.OK {
 		e = sortTape(k, outer, Outer(out), api.KindOuter) // the end stays last: nothing is behind a Mark
 	}
-	remove(k, inner, outer)
+	whole.Remove(k, inner, outer)
 	if e != api.OK {
-		remove(k, Inner(out), Outer(out))
+		whole.Remove(k, Inner(out), Outer(out))
 	}
-	return outcome(k, e)
+	return whole.Outcome(k, e)
 }
 
 func sortTape(k *tape.Desk, in, out string, kind int) api.Errno {
 	return sorter.Sort(k, in, out, kind, plain(), false, k.Purse().Free())
-}
-
-// remove deletes those of these files that are there.
-func remove(k *tape.Desk, names ...string) {
-	for _, name := range names {
-		k.Disk().Delete(name)
-	}
-}
-
-// outcome is what is told of an operation that came to e and has cleaned up: power that went off meanwhile is told in its place.
-func outcome(k *tape.Desk, e api.Errno) api.Errno {
-	if !k.Disk().On() {
-		return api.ErrOff
-	}
-	return e
 }
 
 // descend makes the two tapes under these names; if that is refused, neither is there.
@@ -57,7 +43,7 @@ func (p plan) descend(k *tape.Desk, vars int, inner, outer string) api.Errno {
 	d.shut()
 	e = d.end(e)
 	if e != api.OK {
-		remove(k, inner, outer)
+		whole.Remove(k, inner, outer)
 	}
 	return e
 }
