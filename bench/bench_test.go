@@ -11,7 +11,7 @@ import (
 // TestCanon: it is well formed, and means its function. All tests of node files lean on that.
 func TestCanon(t *testing.T) {
 	for n := range 4 {
-		for number := range uint64(1) << (1 << n) {
+		for number := range 1 << (1 << n) {
 			table := bench.Number(n, number)
 			b := bench.Lie(t, 1, bench.Files(bench.Canon(n, table))...)
 			b.Is(table, nodes.Check(b.Desk, "f"), api.OK)

@@ -32,7 +32,7 @@ func TableOf(n int, f func(x int) bool) []bool {
 }
 
 // Number is the function over n levels whose truths are the bits of a number, the lowest first.
-func Number(n int, bits uint64) []bool {
+func Number(n, bits int) []bool {
 	return TableOf(n, func(x int) bool { return bits>>x&1 == 1 })
 }
 

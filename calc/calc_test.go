@@ -15,10 +15,10 @@ import (
 func TestSmallFunctions(t *testing.T) {
 	t.Parallel()
 	for n := range 3 {
-		all := uint64(1) << (1 << n)
+		all := 1 << (1 << n)
 		for bits := range all * all {
 			x := trioOf(n, bench.Number(n, bits%all), bench.Number(n, bits/all), bench.Number(n, bits%all*7%all))
-			b := bench.Lie(t, 1+int(bits%3), x.tapes()...)
+			b := bench.Lie(t, 1+bits%3, x.tapes()...)
 			for op := range 16 {
 				run(b, x.apply(op, 0, 1))
 			}
@@ -104,9 +104,9 @@ func TestEachCube(t *testing.T) {
 // TestThreeLevels: each function over three levels, alone. P10.1.
 func TestThreeLevels(t *testing.T) {
 	t.Parallel()
-	for bits := range uint64(256) {
+	for bits := range 256 {
 		x := trioOf(3, bench.Number(3, bits), never(3), never(3))
-		x.runAlone(bench.Lie(t, 1+int(bits%2), x.tapes()...))
+		x.runAlone(bench.Lie(t, 1+bits%2, x.tapes()...))
 	}
 }
 

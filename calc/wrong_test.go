@@ -1,41 +1,11 @@
 package calc_test
 
 import (
-	"slices"
 	"testing"
 
 	"strata/api"
 	"strata/bench"
 )
-
-// odd are numbers that a record may have in the place of others.
-func odd() []uint64 {
-	return []uint64{0, 1, uint64(bench.At(1, 0)), uint64(bench.At(2, 1)), uint64(bench.At(3, 0)), uint64(bench.At(3, 7)), uint64(bench.At(4, 0)), 1<<40 - 1, 1<<56 - 1, 1 << 56, 1 << 62, uint64(F), uint64(T), uint64(T) + 1, api.Mark - 1, api.Mark}
-}
-
-// bend changes a node file in one place.
-func bend(r *bench.Dice, list []api.Rec) []api.Rec {
-	out := slices.Clone(list)
-	i := r.Below(len(out))
-	switch r.Below(5) {
-	case 0:
-		out[i][r.Below(4)] = odd()[r.Below(len(odd()))]
-	case 1:
-		out[i][1+r.Below(2)] = out[r.Below(len(out))][r.Below(3)]
-	case 2:
-		j := r.Below(len(out))
-		out[i], out[j] = out[j], out[i]
-	case 3:
-		out = slices.Delete(out, i, min(i+1, len(out)-1))
-	case 4: // one that is not there, in a file that is in rows
-		if i < len(out)-1 && r.Below(2) == 0 {
-			out[i][1] += uint64(r.Below(3))
-		} else if i < len(out)-1 {
-			out[i][2] += 1 << 40
-		}
-	}
-	return out
-}
 
 // tryWrong makes all deeds of another trio over these files: each ends, and answers an error or makes a node file; all else is as before. How many are refused, and with what.
 func tryWrong(t *testing.T, r *bench.Dice, n, k int, lists ...[]api.Rec) map[api.Errno]int {
@@ -67,7 +37,7 @@ func TestBentFiles(t *testing.T) {
 		x := anyTrio(&r, n)
 		for range 1 + r.Below(3) {
 			i := r.Below(3)
-			x.lists[i] = bend(&r, x.lists[i])
+			x.lists[i] = r.Bend(x.lists[i])
 		}
 		for e := range tryWrong(t, &r, n, 1+r.Below(3), x.lists[:]...) {
 			switch e {
@@ -89,11 +59,7 @@ func TestAnyRecords(t *testing.T) {
 		for range 3 {
 			var list []api.Rec
 			for range r.Below(4) {
-				var rec api.Rec
-				for w := range rec {
-					rec[w] = odd()[r.Below(len(odd()))] + uint64(r.Below(2))
-				}
-				list = append(list, rec)
+				list = append(list, r.AnyRecord())
 			}
 			ends := []api.Rec{bench.End(n, T, 0), bench.End(n, bench.At(r.Below(n), 0), len(list)), bench.End(n, bench.At(0, 0), 1<<62), bench.End(n, bench.At(3, 0), 1<<63-1)}
 			lists = append(lists, append(list, ends[r.Below(len(ends))]))

@@ -5,6 +5,7 @@ import (
 	"slices"
 
 	"strata/api"
+	"strata/bench"
 )
 
 // graph is an unreduced diagram in memory.
@@ -28,18 +29,18 @@ func graphOf(list []api.Rec) graph {
 func tree(n int, table []bool) graph {
 	g := graph{n, 0, map[uint64][2]uint64{}}
 	if n == 0 {
-		g.root = truth(side(table[0]))
+		g.root = truth(bench.Side(table[0]))
 	}
 	for l := range n {
 		for i := range 1 << l {
 			var k [2]uint64
 			for s := range k {
-				k[s] = uint64(at(l+1, 2*i+s))
+				k[s] = uint64(bench.At(l+1, 2*i+s))
 				if l == n-1 {
-					k[s] = truth(side(table[2*i+s]))
+					k[s] = truth(bench.Side(table[2*i+s]))
 				}
 			}
-			g.kids[uint64(at(l, i))] = k
+			g.kids[uint64(bench.At(l, i))] = k
 		}
 	}
 	return g
@@ -47,17 +48,17 @@ func tree(n int, table []bool) graph {
 
 // wild is a diagram of nodes that lead to anything below them, at most so many at a level.
 func (r *dice) wild(n, most int) graph {
-	g := graph{n, truth(r.below(2)), map[uint64][2]uint64{}}
+	g := graph{n, truth(r.Below(2)), map[uint64][2]uint64{}}
 	below := []uint64{uint64(F), uint64(T)}
 	for l := n - 1; l >= 0; l-- {
 		var row []uint64
-		for i := range r.below(most + 1) {
-			p := uint64(at(l, i))
+		for i := range r.Below(most + 1) {
+			p := uint64(bench.At(l, i))
 			var k [2]uint64
 			for s := range k {
-				k[s] = below[r.below(len(below))]
-				if r.below(2) == 0 { // rather to what stands just below
-					k[s] = below[len(below)-1-r.below(min(len(below), most))]
+				k[s] = below[r.Below(len(below))]
+				if r.Below(2) == 0 { // rather to what stands just below
+					k[s] = below[len(below)-1-r.Below(min(len(below), most))]
 				}
 			}
 			g.kids[p] = k
@@ -82,7 +83,7 @@ func (g graph) tidy() graph {
 			continue
 		}
 		seen[g.kids[p][0]], seen[g.kids[p][1]] = true, true
-		now[p] = uint64(at(levelOf(p), counts[levelOf(p)]))
+		now[p] = uint64(bench.At(levelOf(p), counts[levelOf(p)]))
 		counts[levelOf(p)]++
 	}
 	return g.renamed(now)
@@ -109,11 +110,11 @@ func (r *dice) shuffled(g graph) graph {
 	for l := range g.n {
 		row := rows[l]
 		for i := range row {
-			j := r.below(i + 1)
+			j := r.Below(i + 1)
 			row[i], row[j] = row[j], row[i]
 		}
 		for i, p := range row {
-			now[p] = uint64(at(l, i))
+			now[p] = uint64(bench.At(l, i))
 		}
 	}
 	return g.renamed(now)
@@ -162,14 +163,14 @@ func (r *dice) double(g *graph) {
 	if len(all) == 0 {
 		return
 	}
-	p := all[r.below(len(all))]
+	p := all[r.Below(len(all))]
 	to := g.places(p)
 	if len(to) < 2 {
 		return
 	}
-	q := uint64(at(levelOf(p), g.width(levelOf(p))))
+	q := uint64(bench.At(levelOf(p), g.width(levelOf(p))))
 	g.kids[q] = g.kids[p]
-	for _, a := range to[:1+r.below(len(to)-1)] {
+	for _, a := range to[:1+r.Below(len(to)-1)] {
 		g.bend(a, q)
 	}
 }
@@ -177,9 +178,9 @@ func (r *dice) double(g *graph) {
 // pad puts a node with two equal arcs between a node and what it leads to, or above the root, where there is a level for it.
 func (r *dice) pad(g *graph) {
 	all := append(g.nodes(), 0)
-	i := r.below(len(all))
+	i := r.Below(len(all))
 	above, to := -1, g.root
-	a := place{all[i], r.below(2)}
+	a := place{all[i], r.Below(2)}
 	if i < len(all)-1 {
 		above, to = levelOf(a.from), g.kids[a.from][a.side]
 	}
@@ -187,8 +188,8 @@ func (r *dice) pad(g *graph) {
 	if gap == 0 {
 		return
 	}
-	l := above + 1 + r.below(gap)
-	q := uint64(at(l, g.width(l)))
+	l := above + 1 + r.Below(gap)
+	q := uint64(bench.At(l, g.width(l)))
 	if i < len(all)-1 {
 		g.bend(a, q)
 	} else {
@@ -201,7 +202,7 @@ func (r *dice) pad(g *graph) {
 func (r *dice) puffed(g graph, steps int) graph {
 	g.kids = maps.Clone(g.kids)
 	for range steps {
-		if r.below(2) == 0 {
+		if r.Below(2) == 0 {
 			r.double(&g)
 		} else {
 			r.pad(&g)
@@ -214,17 +215,16 @@ func (r *dice) puffed(g graph, steps int) graph {
 func (g graph) tapes() (inner, outer []api.Rec) {
 	for from, k := range g.kids {
 		for s, to := range k {
-			if leaf(to) {
+			if levelOf(to) > g.n {
 				outer = append(outer, api.Rec{from, uint64(s), to})
 			} else {
 				inner = append(inner, api.Rec{to, from, uint64(s)})
 			}
 		}
 	}
-	rise := func(a, b api.Rec) int { return slices.Compare(a[:], b[:]) }
-	slices.SortFunc(inner, rise)
-	slices.SortFunc(outer, rise)
-	return inner, append(outer, end(g.n, api.Ptr(g.root), len(g.kids)))
+	bench.ByWords(inner)
+	bench.ByWords(outer)
+	return inner, append(outer, bench.End(g.n, api.Ptr(g.root), len(g.kids)))
 }
 
 // arcs are those of a graph, as a list.
@@ -243,4 +243,4 @@ func (g graph) info() api.Info {
 }
 
 // canon is the node file of a graph's function.
-func (g graph) canon() []api.Rec { return canon(g.n, means(g.tapes())) }
+func (g graph) canon() []api.Rec { return bench.Canon(g.n, bench.Means(g.tapes())) }

@@ -6,6 +6,7 @@ import (
 	"testing"
 
 	"strata/api"
+	"strata/bench"
 	"strata/sweep"
 	"strata/tape"
 )
@@ -31,8 +32,10 @@ type trio struct {
 }
 
 func trioOf(n int, f, g, h []bool) trio {
-	return trio{n, [3][]bool{f, g, h}, [3][]api.Rec{canon(n, f), canon(n, g), canon(n, h)}}
+	return trio{n, [3][]bool{f, g, h}, [3][]api.Rec{bench.Canon(n, f), bench.Canon(n, g), bench.Canon(n, h)}}
 }
+
+func (x trio) tapes() []bench.Strip { return bench.Files(x.lists[:]...) }
 
 func (x trio) name(i int) string { return string(rune('f' + i)) }
 
@@ -47,7 +50,7 @@ func (x trio) two(op, i, j int) job {
 		what:  fmt.Sprintf("Two(%d, %s, %s)", op, x.name(i), x.name(j)),
 		do:    func(k *tape.Desk, out string) api.Errno { return sweep.Two(k, op, x.name(i), x.name(j), out) },
 		inner: inner, outer: outer,
-		means:   tableOf(x.n, func(a int) bool { return op>>(2*side(x.tables[i][a])+side(x.tables[j][a]))&1 == 1 }),
+		means:   bench.TableOf(x.n, func(a int) bool { return op>>(2*bench.Side(x.tables[i][a])+bench.Side(x.tables[j][a]))&1 == 1 }),
 		most:    x.size(i) * x.size(j),
 		product: x.size(i) * x.size(j),
 	}
@@ -59,7 +62,7 @@ func (x trio) three(c, i, j int) job {
 		what:  fmt.Sprintf("Three(%s, %s, %s)", x.name(c), x.name(i), x.name(j)),
 		do:    func(k *tape.Desk, out string) api.Errno { return sweep.Three(k, x.name(c), x.name(i), x.name(j), out) },
 		inner: inner, outer: outer,
-		means: tableOf(x.n, func(a int) bool {
+		means: bench.TableOf(x.n, func(a int) bool {
 			if x.tables[c][a] {
 				return x.tables[i][a]
 			}
@@ -76,9 +79,9 @@ func (x trio) fix(i int, lits []api.Lit) job {
 		what:  fmt.Sprintf("Fix(%s, %v)", x.name(i), lits),
 		do:    func(k *tape.Desk, out string) api.Errno { return sweep.Fix(k, x.name(i), lits, out) },
 		inner: inner, outer: outer,
-		means: tableOf(x.n, func(a int) bool {
+		means: bench.TableOf(x.n, func(a int) bool {
 			for _, lit := range lits {
-				a = with(x.n, a, lit.Level, lit.Value)
+				a = bench.With(x.n, a, lit.Level, lit.Value)
 			}
 			return x.tables[i][a]
 		}),
@@ -93,8 +96,8 @@ func (x trio) quant(i, level int, any bool) job {
 		what:  fmt.Sprintf("Quant(%s, %d, %v)", x.name(i), level, any),
 		do:    func(k *tape.Desk, out string) api.Errno { return sweep.Quant(k, x.name(i), level, any, out) },
 		inner: inner, outer: outer,
-		means: tableOf(x.n, func(a int) bool {
-			low, high := x.tables[i][with(x.n, a, level, false)], x.tables[i][with(x.n, a, level, true)]
+		means: bench.TableOf(x.n, func(a int) bool {
+			low, high := x.tables[i][bench.With(x.n, a, level, false)], x.tables[i][bench.With(x.n, a, level, true)]
 			return any && (low || high) || low && high
 		}),
 		most:    x.size(i) * x.size(i),
@@ -108,26 +111,13 @@ func (x trio) swap(i, level int) job {
 		what:  fmt.Sprintf("Swap(%s, %d)", x.name(i), level),
 		do:    func(k *tape.Desk, out string) api.Errno { return sweep.Swap(k, x.name(i), level, out) },
 		inner: inner, outer: outer,
-		means: tableOf(x.n, func(a int) bool {
-			one, two := bit(x.n, a, level), bit(x.n, a, level+1)
-			return x.tables[i][with(x.n, with(x.n, a, level, two), level+1, one)]
+		means: bench.TableOf(x.n, func(a int) bool {
+			one, two := bench.Bit(x.n, a, level), bench.Bit(x.n, a, level+1)
+			return x.tables[i][bench.With(x.n, bench.With(x.n, a, level, two), level+1, one)]
 		}),
-		most:    x.size(i) - 2 + 2*widthAt(x.lists[i], level),
+		most:    x.size(i) - 2 + 2*bench.Width(x.lists[i], level),
 		product: x.size(i) * x.size(i),
 	}
-}
-
-// lits are some levels with truths, in any order.
-func (r *dice) lits(n, some int) []api.Lit {
-	var all []api.Lit
-	for l := range n {
-		all = append(all, api.Lit{Level: l, Value: r.below(2) == 1})
-	}
-	for i := range all {
-		j := r.below(i + 1)
-		all[i], all[j] = all[j], all[i]
-	}
-	return slices.Clip(all[:some])
 }
 
 // jobs are the five over a trio, with all that they may be given.
@@ -137,7 +127,7 @@ func (x trio) jobs(r *dice) []job {
 		out = append(out, x.two(op, 0, 1))
 	}
 	for some := range x.n + 1 {
-		out = append(out, x.fix(0, r.lits(x.n, some)))
+		out = append(out, x.fix(0, r.Lits(x.n, some)))
 	}
 	for l := range x.n {
 		out = append(out, x.quant(0, l, true), x.quant(0, l, false))
@@ -149,18 +139,18 @@ func (x trio) jobs(r *dice) []job {
 }
 
 // run makes a job and looks at its tapes, record by record.
-func (b bench) run(j job) {
+func (b stand) run(j job) {
 	b.Helper()
-	b.is(j.what, j.do(b.Desk, "out"), api.OK)
+	b.Is(j.what, j.do(b.Desk, "out"), api.OK)
 	b.made(j.what, "out", j.inner, j.outer)
 }
 
 // runAll makes all jobs of a trio on one disk, one behind the other.
 func runAll(t *testing.T, x trio, r *dice, k, free int) {
 	t.Helper()
-	b := mount(t, holds(t, k, files(x.lists[:]...)...), free)
+	b := mount(t, bench.Holds(t, k, x.tapes()...), free)
 	for _, j := range x.jobs(r) {
-		if !slices.Equal(means(j.inner, j.outer), j.means) {
+		if !slices.Equal(bench.Means(j.inner, j.outer), j.means) {
 			t.Fatalf("the model contradicts itself: %s of %v", j.what, x.tables)
 		}
 		b.run(j)
@@ -168,6 +158,6 @@ func runAll(t *testing.T, x trio, r *dice, k, free int) {
 			t.Fatalf("P8.10: %s: %d nodes, at most %d", j.what, j.nodes(), j.most)
 		}
 		b.clear("out")
-		b.asBefore(j.what)
+		b.AsBefore(j.what)
 	}
 }

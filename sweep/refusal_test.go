@@ -5,6 +5,7 @@ import (
 	"testing"
 
 	"strata/api"
+	"strata/bench"
 	"strata/sweep"
 	"strata/tape"
 )
@@ -62,24 +63,24 @@ func calls() []call {
 }
 
 // wrongs are the tapes of the tests of refusals.
-func wrongs() []strip {
-	and, or := canon(2, number(2, 8)), canon(2, number(2, 14))
-	return append(files(and, or, and),
-		strip{"wide", api.KindNodes, canon(3, number(3, 0x96))},
-		strip{"empty", api.KindNodes, nil},
-		strip{"none", api.KindNodes, []api.Rec{{1, 2, 3, 4}}},
-		strip{"great", api.KindNodes, []api.Rec{end(api.MaxVars+1, T, 0)}},
-		strip{"inner", api.KindInner, and},
-		strip{"long", api.KindNodes, append(append([]api.Rec{}, and[0]), and...)}, // an end, though there are more records than it says
-		strip{"there.i", api.KindRaw, nil},
-		strip{"here.o", api.KindRaw, nil},
+func wrongs() []bench.Strip {
+	and, or := bench.Canon(2, bench.Number(2, 8)), bench.Canon(2, bench.Number(2, 14))
+	return append(bench.Files(and, or, and),
+		strip("wide", api.KindNodes, bench.Canon(3, bench.Number(3, 0x96))),
+		strip("empty", api.KindNodes, nil),
+		strip("none", api.KindNodes, []api.Rec{{1, 2, 3, 4}}),
+		strip("great", api.KindNodes, []api.Rec{bench.End(api.MaxVars+1, T, 0)}),
+		strip("inner", api.KindInner, and),
+		strip("long", api.KindNodes, append(append([]api.Rec{}, and[0]), and...)), // an end, though there are more records than it says
+		strip("there.i", api.KindRaw, nil),
+		strip("here.o", api.KindRaw, nil),
 	)
 }
 
 // TestRefusals: in the order of G7. P8.2 to P8.6.
 func TestRefusals(t *testing.T) {
 	const k = 2
-	was := holds(t, k, wrongs()...)
+	was := bench.Holds(t, k, wrongs()...)
 	for _, c := range calls() {
 		try := func(free int, want api.Errno, out string, in ...string) {
 			t.Helper()
@@ -90,16 +91,16 @@ func TestRefusals(t *testing.T) {
 			}
 			what := []any{c.what, c.bad, c.late, free, names, out}
 			b := mount(t, was, free)
-			b.is(what, c.do(nil, names, out), api.ErrArg)
+			b.Is(what, c.do(nil, names, out), api.ErrArg)
 			e := c.do(b.Desk, names, out)
 			if c.bad != api.OK {
 				want = c.bad
 			}
-			b.is(what, e, want)
+			b.Is(what, e, want)
 			if e == api.OK {
-				b.stays(what)
+				b.Stays(what)
 			} else {
-				b.asBefore(what)
+				b.AsBefore(what)
 			}
 			switch e {
 			case api.ErrShape, api.ErrKind, api.ErrVars, api.OK:
@@ -159,86 +160,86 @@ func TestRefusals(t *testing.T) {
 
 // TestWithoutPower: ahead of all but a nil desk. G7.
 func TestWithoutPower(t *testing.T) {
-	b := mount(t, holds(t, 1, wrongs()...), 64, api.Trouble{At: 0, Kind: api.TrCut})
+	b := mount(t, bench.Holds(t, 1, wrongs()...), 64, api.Trouble{At: 0, Kind: api.TrCut})
 	b.Disk().Create("cut")
 	for _, c := range calls() {
 		for _, name := range []string{"f", "A", "no", "none"} {
-			b.is(c.what, c.do(b.Desk, [3]string{name, name, name}, name), api.ErrOff)
-			b.is(c.what, c.do(nil, [3]string{name, name, name}, name), api.ErrArg)
+			b.Is(c.what, c.do(b.Desk, [3]string{name, name, name}, name), api.ErrOff)
+			b.Is(c.what, c.do(nil, [3]string{name, name, name}, name), api.ErrArg)
 		}
 	}
 	list, info, e := sweep.Arcs(b.Desk, "A")
 	if len(list) > 0 || info != (api.Info{}) || e != api.ErrOff {
 		t.Errorf("Arcs: %v, %v, %d", list, info, e)
 	}
-	b.is("Arcs of a nil desk", third(sweep.Arcs(nil, "A")), api.ErrArg)
-	b.is("Lay", sweep.Lay(b.Desk, []api.Arc{{}}, api.Info{Vars: -1}, "A"), api.ErrOff)
-	b.is("Lay of a nil desk", sweep.Lay(nil, []api.Arc{{}}, api.Info{Vars: -1}, "A"), api.ErrArg)
-	b.asBefore("all")
+	b.Is("Arcs of a nil desk", third(sweep.Arcs(nil, "A")), api.ErrArg)
+	b.Is("Lay", sweep.Lay(b.Desk, []api.Arc{{}}, api.Info{Vars: -1}, "A"), api.ErrOff)
+	b.Is("Lay of a nil desk", sweep.Lay(nil, []api.Arc{{}}, api.Info{Vars: -1}, "A"), api.ErrArg)
+	b.AsBefore("all")
 }
 
 func third(list []api.Arc, info api.Info, e api.Errno) api.Errno { return e }
 
 // TestClosedPart: nothing is free in it. G7.
 func TestClosedPart(t *testing.T) {
-	x := trioOf(4, number(4, 0x6db3), number(4, 0x1234), number(4, 0x9f31))
-	b := mount(t, holds(t, 1, files(x.lists[:]...)...), 999)
+	x := trioOf(4, bench.Number(4, 0x6db3), bench.Number(4, 0x1234), bench.Number(4, 0x9f31))
+	b := mount(t, bench.Holds(t, 1, x.tapes()...), 999)
 	part, _ := b.Purse().Part(500)
 	k, _ := tape.NewDesk(b.Disk(), part)
 	for _, j := range x.jobs(new(dice)) {
-		b.is(j.what, j.do(k, "out"), api.OK)
+		b.Is(j.what, j.do(k, "out"), api.OK)
 		b.clear("out")
 	}
 	part.Close()
 	for _, j := range x.jobs(new(dice)) {
-		b.still(j.what, func() { b.is(j.what, j.do(k, "out"), api.ErrBudget) })
+		b.Still(j.what, func() { b.Is(j.what, j.do(k, "out"), api.ErrBudget) })
 	}
-	b.is("Lay", sweep.Lay(k, nil, api.Info{Root: F}, "out"), api.ErrBudget)
-	b.asBefore("a closed part")
+	b.Is("Lay", sweep.Lay(k, nil, api.Info{Root: F}, "out"), api.ErrBudget)
+	b.AsBefore("a closed part")
 }
 
 // TestGreatPurse: a budget that no memory has. G1, G10.
 func TestGreatPurse(t *testing.T) {
-	r := dice(8)
-	x := trioOf(5, r.table(5), r.table(5), r.table(5))
+	r := dice{8}
+	x := trioOf(5, r.Table(5), r.Table(5), r.Table(5))
 	for _, k := range []int{1, 2, 2047} {
-		b := mount(t, holds(t, k, files(x.lists[:]...)...), math.MaxInt-5)
+		b := mount(t, bench.Holds(t, k, x.tapes()...), math.MaxInt-5)
 		for _, j := range x.jobs(&r) {
 			b.run(j)
 			b.clear("out")
 		}
-		b.asBefore("a great purse")
+		b.AsBefore("a great purse")
 	}
 }
 
 // TestWrongFiles: tapes with ends that are node files, and with records that are not what they should be: the call ends, and answers an error or makes two tapes; all else is as before. G1, G8.
 func TestWrongFiles(t *testing.T) {
-	r := dice(9)
+	r := dice{9}
 	const n = 4
 	refused := 0
 	for round := range 400 {
-		x := trioOf(n, r.table(n), r.thin(n), r.table(n))
-		for range 1 + r.below(3) {
-			x.lists[0] = r.bend(x.lists[0])
+		x := trioOf(n, r.Table(n), r.Thin(n), r.Table(n))
+		for range 1 + r.Below(3) {
+			x.lists[0] = r.Bend(x.lists[0])
 		}
-		b := lie(t, 1+r.below(3), x.lists[:]...)
+		b := lie(t, 1+r.Below(3), x.lists[:]...)
 		for _, j := range x.looseJobs(&r) {
 			e := j.do(b.Desk, "out")
 			switch {
 			case e == api.OK:
-				others := b.stays(j.what)
+				others := b.Stays(j.what)
 				if len(others) != 2 || !others[0].Sealed || !others[1].Sealed {
 					t.Fatalf("%d: %s: the disk holds %v", round, j.what, b.Disk().Names())
 				}
-				b.records("out.i", api.KindInner)
-				b.records("out.o", api.KindOuter)
+				b.Records("out.i", api.KindInner)
+				b.Records("out.o", api.KindOuter)
 				b.clear("out")
 			case e == api.ErrShape || e == api.ErrVars || e == api.ErrLevel:
 				refused++
 			default:
 				t.Fatalf("%d: %s of %v: %d", round, j.what, x.lists[0], e)
 			}
-			b.asBefore(j.what)
+			b.AsBefore(j.what)
 		}
 	}
 	if refused == 0 {
@@ -246,27 +247,8 @@ func TestWrongFiles(t *testing.T) {
 	}
 }
 
-// bend changes a node file in one place.
-func (r *dice) bend(list []api.Rec) []api.Rec {
-	out := append([]api.Rec{}, list...)
-	i := r.below(len(out))
-	odd := []uint64{0, 1, uint64(at(1, 0)), uint64(at(3, 1)), uint64(at(3, 7)), uint64(at(4, 0)), uint64(F), uint64(T), uint64(T) + 1, api.Mark, 1 << 62}
-	switch r.below(4) {
-	case 0:
-		out[i][r.below(4)] = odd[r.below(len(odd))]
-	case 1:
-		out[i][1+r.below(2)] = out[r.below(len(out))][r.below(3)]
-	case 2:
-		j := r.below(len(out))
-		out[i], out[j] = out[j], out[i]
-	case 3:
-		out = append(out[:i], out[min(i+1, len(out)-1):]...)
-	}
-	return out
-}
-
 // looseJobs are jobs of which nothing is told but what they are asked for.
 func (x trio) looseJobs(r *dice) []job {
-	y := trioOf(x.n, r.table(x.n), r.table(x.n), r.table(x.n)) // the names are the same ones
+	y := trioOf(x.n, r.Table(x.n), r.Table(x.n), r.Table(x.n)) // the names are the same ones
 	return y.jobs(r)
 }

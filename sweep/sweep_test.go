@@ -4,20 +4,18 @@ import (
 	"testing"
 
 	"strata/api"
+	"strata/bench"
 	"strata/sweep"
 )
 
-// number is the function of that number over n levels.
-func number(n, f int) []bool { return tableOf(n, func(x int) bool { return f>>x&1 == 1 }) }
-
 // TestAllSmallFunctions: every pair of functions over no level, one and two, leaves among them. P8.2 to P8.6, P8.9, P8.11.
 func TestAllSmallFunctions(t *testing.T) {
-	r := dice(1)
+	r := dice{1}
 	for n := range 3 {
 		all := 1 << (1 << n)
 		for f := range all {
 			for g := range all {
-				runAll(t, trioOf(n, number(n, f), number(n, g), number(n, r.below(all))), &r, 1+r.below(3), 64*3)
+				runAll(t, trioOf(n, bench.Number(n, f), bench.Number(n, g), bench.Number(n, r.Below(all))), &r, 1+r.Below(3), 64*3)
 			}
 		}
 	}
@@ -28,7 +26,7 @@ func TestThreeSmallFunctions(t *testing.T) {
 	for f := range 4 {
 		for g := range 4 {
 			for h := range 4 {
-				x := trioOf(1, number(1, f), number(1, g), number(1, h))
+				x := trioOf(1, bench.Number(1, f), bench.Number(1, g), bench.Number(1, h))
 				lie(t, 1, x.lists[:]...).run(x.three(0, 1, 2))
 			}
 		}
@@ -37,15 +35,15 @@ func TestThreeSmallFunctions(t *testing.T) {
 
 // TestBlocksAndBudgets: functions over more levels, over unlike blocks and budgets, the least among them. P8.9 to P8.11, G9.
 func TestBlocksAndBudgets(t *testing.T) {
-	r := dice(2)
+	r := dice{2}
 	for n := 3; n < 8; n++ {
 		for round := range 6 {
-			f, g, h := r.table(n), r.table(n), r.thin(n)
+			f, g, h := r.Table(n), r.Table(n), r.Thin(n)
 			if round%3 == 1 {
-				f, g = r.thin(n), r.thin(n)
+				f, g = r.Thin(n), r.Thin(n)
 			}
 			x := trioOf(n, f, g, h)
-			for _, c := range []struct{ k, more int }{{1, 0}, {1, 1 + r.below(200)}, {2, 0}, {3, r.below(9)}, {31, 0}, {300, 7}} {
+			for _, c := range []struct{ k, more int }{{1, 0}, {1, 1 + r.Below(200)}, {2, 0}, {3, r.Below(9)}, {31, 0}, {300, 7}} {
 				runAll(t, x, &r, c.k, api.LeastK*c.k+c.more)
 			}
 		}
@@ -54,12 +52,12 @@ func TestBlocksAndBudgets(t *testing.T) {
 
 // TestGreatOnes: diagrams of which a level has many times what the least purse holds. P8.9, G9.
 func TestGreatOnes(t *testing.T) {
-	r := dice(3)
+	r := dice{3}
 	const n = 12
-	x := trioOf(n, r.table(n), r.table(n), r.thin(n))
-	for _, j := range []job{x.two(api.OpAnd, 0, 1), x.two(api.OpXor, 1, 1), x.three(2, 0, 1), x.fix(0, r.lits(n, 1)), x.fix(0, r.lits(n, 5)), x.quant(0, 0, true), x.quant(0, 6, false), x.quant(1, n-1, true), x.swap(0, 0), x.swap(1, 7), x.swap(0, n-2)} {
+	x := trioOf(n, r.Table(n), r.Table(n), r.Thin(n))
+	for _, j := range []job{x.two(api.OpAnd, 0, 1), x.two(api.OpXor, 1, 1), x.three(2, 0, 1), x.fix(0, r.Lits(n, 1)), x.fix(0, r.Lits(n, 5)), x.quant(0, 0, true), x.quant(0, 6, false), x.quant(1, n-1, true), x.swap(0, 0), x.swap(1, 7), x.swap(0, n-2)} {
 		for _, c := range []struct{ k, free int }{{1, 64}, {1, 500}, {2, 128}, {15, 64 * 15}, {40, 1 << 30}} {
-			mount(t, holds(t, c.k, files(x.lists[:]...)...), c.free).run(j)
+			mount(t, bench.Holds(t, c.k, x.tapes()...), c.free).run(j)
 		}
 	}
 }
@@ -71,7 +69,7 @@ func TestNames(t *testing.T) {
 			t.Errorf("%q: %q, %q", name, sweep.Inner(name), sweep.Outer(name))
 		}
 	}
-	x := trioOf(2, number(2, 8), number(2, 6), number(2, 9))
+	x := trioOf(2, bench.Number(2, 8), bench.Number(2, 6), bench.Number(2, 9))
 	for _, c := range []struct {
 		out  string
 		want api.Errno
@@ -80,32 +78,35 @@ func TestNames(t *testing.T) {
 	} {
 		b := lie(t, 1, x.lists[:]...)
 		for _, j := range x.jobs(new(dice)) {
-			b.is([]any{j.what, c}, j.do(b.Desk, c.out), c.want)
+			b.Is([]any{j.what, c}, j.do(b.Desk, c.out), c.want)
 			if c.want == api.OK {
 				b.made([]any{j.what, c}, c.out, j.inner, j.outer)
 				b.clear(c.out)
 			}
-			b.asBefore(c)
+			b.AsBefore(c)
 		}
 		_, _, e := sweep.Arcs(b.Desk, c.out)
 		if want := c.want; want == api.OK && e != api.ErrNoFile || want != api.OK && e != want {
 			t.Errorf("Arcs(%q): %d", c.out, e)
 		}
-		b.is(c, sweep.Lay(b.Desk, nil, api.Info{Root: T}, c.out), c.want)
+		b.Is(c, sweep.Lay(b.Desk, nil, api.Info{Root: T}, c.out), c.want)
 	}
 }
 
 // TestTempNames: an out that the desk itself has told as that of a temporary, and files of a temporary's name that are there. DOC.md, the words.
 func TestTempNames(t *testing.T) {
-	r := dice(4)
-	x := trioOf(5, r.table(5), r.table(5), r.table(5))
+	r := dice{4}
+	x := trioOf(5, r.Table(5), r.Table(5), r.Table(5))
 	b := lie(t, 1, x.lists[:]...)
+	for range 5 {
+		b.Temp() // tapes of arcs of some of these names are there
+	}
 	for _, j := range x.jobs(&r) {
 		out := b.Temp()
-		b.is(j.what, j.do(b.Desk, out), api.OK)
+		b.Is(j.what, j.do(b.Desk, out), api.OK)
 		b.made(j.what, out, j.inner, j.outer)
 		b.clear(out)
-		b.asBefore(j.what)
+		b.AsBefore(j.what)
 	}
 }
 
@@ -115,7 +116,7 @@ func (r *dice) chain(n int) ([]api.Rec, []api.Lit) {
 	lits := make([]api.Lit, n)
 	to := uint64(T)
 	for l := n - 1; l >= 0; l-- {
-		lits[l] = api.Lit{Level: l, Value: r.below(2) == 1}
+		lits[l] = api.Lit{Level: l, Value: r.Below(2) == 1}
 		node := api.Rec{uint64(l) * ids, to, uint64(F)}
 		if lits[l].Value {
 			node[1], node[2] = node[2], node[1]
@@ -123,45 +124,45 @@ func (r *dice) chain(n int) ([]api.Rec, []api.Lit) {
 		list = append(list, node)
 		to = node[0]
 	}
-	return append(list, end(n, 0, n)), lits
+	return append(list, bench.End(n, 0, n)), lits
 }
 
 // TestAllLevels: a diagram over as many levels as there may be. MaxVars; P8.2 to P8.6.
 func TestAllLevels(t *testing.T) {
 	const n = api.MaxVars
-	r := dice(5)
+	r := dice{5}
 	list, lits := r.chain(n)
 	d := diagramOf(list)
-	b := mount(t, holds(t, 7, files(list)...), 64*7)
+	b := mount(t, bench.Holds(t, 7, bench.Files(list)...), 64*7)
 	check := func(what string, e api.Errno, inner, outer []api.Rec) {
 		t.Helper()
-		b.is(what, e, api.OK)
+		b.Is(what, e, api.OK)
 		b.made(what, "out", inner, outer)
 		b.clear("out")
 	}
 	inner, outer := twoOf(api.OpAnd, d, d)
 	check("Two", sweep.Two(b.Desk, api.OpAnd, "f", "f", "out"), inner, outer)
-	check("Fix of all", sweep.Fix(b.Desk, "f", lits, "out"), nil, []api.Rec{end(n, T, 0)})
+	check("Fix of all", sweep.Fix(b.Desk, "f", lits, "out"), nil, []api.Rec{bench.End(n, T, 0)})
 	half := lits[n/2:]
 	inner, outer = fixOf(d, half[:1])
 	check("Fix of one", sweep.Fix(b.Desk, "f", half[:1], "out"), inner, outer)
 	for _, l := range []int{0, 1, n - 2, n - 1} {
 		inner, outer = quantOf(d, l, true)
 		check("Quant", sweep.Quant(b.Desk, "f", l, true, "out"), inner, outer)
-		b.is("Swap", sweep.Swap(b.Desk, "f", l, "out"), map[bool]api.Errno{true: api.ErrLevel}[l == n-1])
+		b.Is("Swap", sweep.Swap(b.Desk, "f", l, "out"), map[bool]api.Errno{true: api.ErrLevel}[l == n-1])
 		if l < n-1 {
 			inner, outer = swapOf(d, l)
 			b.made("Swap", "out", inner, outer)
 			b.clear("out")
 		}
 	}
-	b.asBefore("all")
+	b.AsBefore("all")
 }
 
 // TestSameAgain: the same call on the same disk and purse makes the same numbered calls. G2, G7.
 func TestSameAgain(t *testing.T) {
-	r := dice(6)
-	x := trioOf(6, r.table(6), r.table(6), r.table(6))
+	r := dice{6}
+	x := trioOf(6, r.Table(6), r.Table(6), r.Table(6))
 	for _, j := range x.jobs(&r) {
 		var last api.Counts
 		for i := range 3 {
@@ -177,11 +178,11 @@ func TestSameAgain(t *testing.T) {
 
 // TestLits: the list of literals stays as it was, its spare room too; nil and empty are the same; the order says nothing. G3, G4, P8.4.
 func TestLits(t *testing.T) {
-	r := dice(7)
-	x := trioOf(6, r.table(6), r.table(6), r.table(6))
+	r := dice{7}
+	x := trioOf(6, r.Table(6), r.Table(6), r.Table(6))
 	b := lie(t, 1, x.lists[:]...)
 	for some := range 7 {
-		room := append(r.lits(6, some), api.Lit{Level: 77, Value: true}, api.Lit{Level: -5})
+		room := append(r.Lits(6, some), api.Lit{Level: 77, Value: true}, api.Lit{Level: -5})
 		was := append([]api.Lit(nil), room...)
 		lits := room[:some]
 		b.run(x.fix(0, lits))
