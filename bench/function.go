@@ -125,3 +125,16 @@ func Width(list []api.Rec, l int) int {
 	}
 	return n
 }
+
+// Orders calls do with each order of the numbers up to ahead of n.
+func Orders(n int, do func(list []int)) {
+	if n == 0 {
+		do(nil)
+		return
+	}
+	Orders(n-1, func(list []int) {
+		for i := range n {
+			do(slices.Insert(slices.Clone(list), i, n-1))
+		}
+	})
+}

@@ -23,6 +23,7 @@ func begin(k *tape.Desk, wrong api.Errno, levels []int, out string, in ...string
 	return j, askBelow(levels, j.vars)
 }
 
+// askVars refuses a number of levels that no diagram has.
 func askVars(vars int) api.Errno {
 	if vars < 0 || vars > api.MaxVars {
 		return api.ErrArg

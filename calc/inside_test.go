@@ -3,20 +3,9 @@ package calc
 import (
 	"slices"
 	"testing"
-)
 
-// orders calls f with each order of the numbers up to ahead of n.
-func orders(n int, f func(list []int)) {
-	if n == 0 {
-		f(nil)
-		return
-	}
-	orders(n-1, func(list []int) {
-		for i := range n {
-			f(slices.Insert(slices.Clone(list), i, n-1))
-		}
-	})
-}
+	"strata/bench"
+)
 
 // rises is how long the longest rising choice of a list is, by trying each.
 func rises(list []int) int {
@@ -38,7 +27,7 @@ func rises(list []int) int {
 // TestMoves: they bring each order of few numbers into their own, and there are no more of them than must be. What stands aside is told right.
 func TestMoves(t *testing.T) {
 	for n := range 7 {
-		orders(n, func(list []int) {
+		bench.Orders(n, func(list []int) {
 			all := moves(list)
 			if len(all) != n-rises(list) {
 				t.Fatalf("%v: the moves %v, where %d are enough", list, all, n-rises(list))
