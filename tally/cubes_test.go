@@ -3,6 +3,7 @@ package tally_test
 import (
 	"iter"
 	"slices"
+	"sync"
 	"testing"
 
 	"strata/api"
@@ -93,6 +94,44 @@ func TestCubesWithinCubes(t *testing.T) {
 		}
 		b.AsBefore(inner)
 	}
+}
+
+// TestCubesKeepWhatTheyHold: no one else gets at the records of a pass, neither between two texts nor while it reads. P11.7.
+func TestCubesKeepWhatTheyHold(t *testing.T) {
+	r := bench.Dice(45)
+	const n, k = 8, 2
+	table := r.Table(n)
+	b := bench.Mount(t, bench.Holds(t, k, bench.Files(bench.Canon(n, table))...), k)
+	var got []string
+	var thief sync.WaitGroup
+	end := make(chan struct{})
+	for text, e := range tally.Cubes(b.Desk, "f") {
+		b.Is(text, e, api.OK)
+		if got = append(got, text); len(got) == 1 {
+			thief.Go(func() {
+				for {
+					select {
+					case <-end:
+						return
+					default:
+						if b.Purse().Take(1) == api.OK {
+							t.Error("a record of the pass was free")
+							b.Purse().Give(1)
+							return
+						}
+					}
+				}
+			})
+		}
+		if len(got) == len(cubesOf(table, n)) {
+			close(end)
+			thief.Wait()
+		}
+	}
+	if want := cubesOf(table, n); !slices.Equal(got, want) {
+		t.Fatalf("%q, want %q", got, want)
+	}
+	b.AsBefore("a pass")
 }
 
 // TestCubesInTurns: two passes that go on in turns. P11.7.
