@@ -1,6 +1,7 @@
 package bench_test
 
 import (
+	"slices"
 	"testing"
 
 	"strata/api"
@@ -79,6 +80,58 @@ func TestWhatItSees(t *testing.T) {
 	b.Is("an answer", api.OK, api.ErrArg)
 	if d.failed != 3 {
 		t.Errorf("it has failed %d times", d.failed)
+	}
+}
+
+// TestSame: two files of the same blocks; files of other ones, one that is not sealed, one that is not there, are not the same.
+func TestSame(t *testing.T) {
+	d := &deaf{}
+	m := bench.NewMaker(bench.Lie(d, 1, bench.Files(bench.Canon(2, bench.Number(2, 8)), bench.Canon(2, bench.Number(2, 9)))...))
+	made := func(out string) api.Errno { build(m.Bench, out); return api.OK }
+	f, g := m.Make(made), m.Make(made)
+	m.Same("the same", f, g)
+	m.Same("the same", f, "f")
+	if d.failed != 0 || f == g {
+		t.Errorf("it has failed %d times, of %s and %s", d.failed, f, g)
+	}
+	m.Same("another", f, "g")
+	m.Same("not sealed", "open", "open")
+	m.Same("not there", "no", "no")
+	m.Make(func(out string) api.Errno { return api.ErrArg })
+	if d.failed != 4 {
+		t.Errorf("it has failed %d times", d.failed)
+	}
+}
+
+// TestSpread: the file of a function of some levels is that of the function of as many, each at its place.
+func TestSpread(t *testing.T) {
+	const n = 4
+	for _, places := range [][]int{{}, {2}, {0, 3}, {1, 2, 3}, {0, 1, 2, 3}} {
+		m := len(places)
+		for number := range min(256, 1<<(1<<m)) {
+			table := bench.Number(m, number)
+			wide := bench.TableOf(n, func(x int) bool {
+				y := 0
+				for i, l := range places {
+					y = bench.With(m, y, i, bench.Bit(n, x, l))
+				}
+				return table[y]
+			})
+			if got := bench.Spread(bench.Canon(m, table), n, places); !slices.Equal(got, bench.Canon(n, wide)) {
+				t.Fatalf("%v at %v: %v", table, places, got)
+			}
+		}
+	}
+}
+
+// TestGaps: they are in rows, and no node files.
+func TestGaps(t *testing.T) {
+	for _, list := range bench.Gaps() {
+		b := bench.Lie(t, 1, bench.Files(list)...)
+		if got, _, e := nodes.All(b.Desk, "f"); len(got) != len(list)-1 || e != api.OK {
+			t.Errorf("%v: %d", list, e)
+		}
+		b.Is(list, nodes.Check(b.Desk, "f"), api.ErrShape)
 	}
 }
 

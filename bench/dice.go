@@ -60,6 +60,17 @@ func (r *Dice) AnyRecord() api.Rec {
 	return rec
 }
 
+// AnyFile is a short tape of such records; most of them end as a node file over n levels may.
+func (r *Dice) AnyFile(n int) []api.Rec {
+	var list []api.Rec
+	for range r.Below(4) {
+		list = append(list, r.AnyRecord())
+	}
+	const most = api.MaxVars
+	ends := []api.Rec{End(n, api.True, 0), End(n, api.False, 0), End(n, At(r.Below(n), 0), len(list)), End(n, At(0, 0), 1<<62), End(n, At(n-1, 0), 1<<63-1), End(most, At(most-1, 0), len(list)), r.AnyRecord()}
+	return append(list, ends[r.Below(len(ends))])
+}
+
 // AnyArcs are two short tapes of such records; most of them end as arcs may.
 func (r *Dice) AnyArcs() (inner, outer []api.Rec) {
 	for range r.Below(4) {

@@ -115,6 +115,25 @@ func Canon(n int, table []bool) []api.Rec {
 	return append(out, End(n, api.Ptr(c.point(0, c.text)), len(out)))
 }
 
+// Spread is the node file over n levels in which each level of another one stands at its place; the places rise.
+func Spread(list []api.Rec, n int, places []int) []api.Rec {
+	move := func(p uint64) uint64 {
+		if p >= first {
+			return p
+		}
+		return node(places[p/ids], int(p%ids))
+	}
+	out := slices.Clone(list)
+	last := len(out) - 1
+	for i := range out[:last] {
+		for w := range 3 {
+			out[i][w] = move(out[i][w])
+		}
+	}
+	out[last] = End(n, api.Ptr(move(out[last][2])), last)
+	return out
+}
+
 // Width is how many nodes of a node file are at a level.
 func Width(list []api.Rec, l int) int {
 	n := 0
@@ -124,6 +143,19 @@ func Width(list []api.Rec, l int) int {
 		}
 	}
 	return n
+}
+
+// Gaps are tapes over 4 levels that are in rows, and no node files: a low or a high is at a level that has no node, or has an id that is not there; or no arc goes to a node.
+func Gaps() [][]api.Rec {
+	return [][]api.Rec{
+		{{node(0, 0), leaf0, node(2, 0)}, End(4, 0, 1)},
+		{{node(0, 0), node(3, 0), node(2, 0)}, End(4, 0, 1)},
+		{{node(2, 0), leaf0, node(3, 5)}, {node(0, 0), node(1, 0), node(2, 0)}, End(4, 0, 2)},
+		{{node(3, 0), leaf0, leaf1}, {node(0, 0), leaf0, node(3, 1<<40-1)}, End(4, 0, 2)},
+		{{node(3, 0), leaf0, leaf1}, {node(0, 0), node(3, 0), node(3, 1)}, End(4, 0, 2)},
+		{{node(3, 0), leaf0, leaf1}, {node(1, 0), leaf0, leaf1}, {node(0, 0), node(1, 0), leaf1}, End(4, 0, 3)},                                  // nothing goes to 3:0
+		{{node(3, 0), leaf0, leaf1}, {node(3, 1), leaf1, leaf0}, {node(1, 0), node(3, 1), leaf1}, {node(0, 0), node(1, 0), leaf1}, End(4, 0, 4)}, // nor here
+	}
 }
 
 // Orders calls do with each order of the numbers up to ahead of n.

@@ -1,9 +1,7 @@
 package calc_test
 
 import (
-	"bytes"
 	"slices"
-	"strconv"
 	"testing"
 
 	"strata/api"
@@ -12,48 +10,37 @@ import (
 	"strata/tape"
 )
 
-// maker makes files of files, each under a name of its own, and tells that name.
-type maker struct {
-	bench.Bench
-	made *int
-}
-
-func (m maker) make(call func(out string) api.Errno) string {
-	m.Helper()
-	*m.made++
-	out := "o" + strconv.Itoa(*m.made)
-	m.Is(out, call(out), api.OK)
-	return out
-}
+// maker makes files of files, and tells their names.
+type maker struct{ bench.Maker }
 
 func (m maker) constant(n int, v bool) string {
 	m.Helper()
-	return m.make(func(out string) api.Errno { return calc.Const(m.Desk, n, v, out) })
+	return m.Make(func(out string) api.Errno { return calc.Const(m.Desk, n, v, out) })
 }
 
 func (m maker) variable(n, level int) string {
 	m.Helper()
-	return m.make(func(out string) api.Errno { return calc.Var(m.Desk, n, level, out) })
+	return m.Make(func(out string) api.Errno { return calc.Var(m.Desk, n, level, out) })
 }
 
 func (m maker) not(f string) string {
 	m.Helper()
-	return m.make(func(out string) api.Errno { return calc.Not(m.Desk, f, out) })
+	return m.Make(func(out string) api.Errno { return calc.Not(m.Desk, f, out) })
 }
 
 func (m maker) apply(op int, f, g string) string {
 	m.Helper()
-	return m.make(func(out string) api.Errno { return calc.Apply(m.Desk, op, f, g, out) })
+	return m.Make(func(out string) api.Errno { return calc.Apply(m.Desk, op, f, g, out) })
 }
 
 func (m maker) ite(f, g, h string) string {
 	m.Helper()
-	return m.make(func(out string) api.Errno { return calc.Ite(m.Desk, f, g, h, out) })
+	return m.Make(func(out string) api.Errno { return calc.Ite(m.Desk, f, g, h, out) })
 }
 
 func (m maker) restrict(f string, lits ...api.Lit) string {
 	m.Helper()
-	return m.make(func(out string) api.Errno { return calc.Restrict(m.Desk, f, lits, out) })
+	return m.Make(func(out string) api.Errno { return calc.Restrict(m.Desk, f, lits, out) })
 }
 
 // quantifier is Exists or Forall.
@@ -61,35 +48,17 @@ type quantifier func(k *tape.Desk, f string, levels []int, out string) api.Errno
 
 func (m maker) quantify(q quantifier, f string, levels ...int) string {
 	m.Helper()
-	return m.make(func(out string) api.Errno { return q(m.Desk, f, levels, out) })
+	return m.Make(func(out string) api.Errno { return q(m.Desk, f, levels, out) })
 }
 
 func (m maker) compose(f string, level int, g string) string {
 	m.Helper()
-	return m.make(func(out string) api.Errno { return calc.Compose(m.Desk, f, level, g, out) })
+	return m.Make(func(out string) api.Errno { return calc.Compose(m.Desk, f, level, g, out) })
 }
 
 func (m maker) rename(f string, to []int) string {
 	m.Helper()
-	return m.make(func(out string) api.Errno { return calc.Rename(m.Desk, f, to, out) })
-}
-
-func (m maker) blocks(name string) [][]byte {
-	for _, f := range m.Disk().State().Files {
-		if f.Name == name && f.Sealed {
-			return f.Blocks
-		}
-	}
-	return nil
-}
-
-// same fails the test unless two files are the same, block by block.
-func (m maker) same(what any, f, g string) {
-	m.Helper()
-	a, b := m.blocks(f), m.blocks(g)
-	if len(a) == 0 || !slices.EqualFunc(a, b, bytes.Equal) {
-		m.Fatalf("%v: %s and %s are not the same file", what, f, g)
-	}
+	return m.Make(func(out string) api.Errno { return calc.Rename(m.Desk, f, to, out) })
 }
 
 // sets are functions of which some hang on few levels or on none.
@@ -104,7 +73,7 @@ func each(t *testing.T, do func(r *bench.Dice, n int, x trio, m maker)) {
 	for n := range 6 {
 		for i, s := range sets(&r, n) {
 			x := trioOf(n, s[0], s[1], s[2])
-			do(&r, n, x, maker{bench.Lie(t, 1+i, x.tapes()...), new(int)})
+			do(&r, n, x, maker{bench.NewMaker(bench.Lie(t, 1+i, x.tapes()...))})
 		}
 	}
 }
@@ -112,14 +81,14 @@ func each(t *testing.T, do func(r *bench.Dice, n int, x trio, m maker)) {
 // TestFollowsOfNotAndApply, file by file. P10.4.
 func TestFollowsOfNotAndApply(t *testing.T) {
 	each(t, func(r *bench.Dice, n int, x trio, m maker) {
-		m.same("Not of Not", m.not(m.not("f")), "f")
+		m.Same("Not of Not", m.not(m.not("f")), "f")
 		for _, op := range []int{api.OpAnd, api.OpOr, api.OpXor, api.OpNand, api.OpNor, api.OpIff} {
-			m.same(op, m.apply(op, "f", "g"), m.apply(op, "g", "f"))
+			m.Same(op, m.apply(op, "f", "g"), m.apply(op, "g", "f"))
 		}
-		m.same("OpXor of one file", m.apply(api.OpXor, "f", "f"), m.constant(n, false))
-		m.same("OpA", m.apply(api.OpA, "f", "g"), "f")
-		m.same("OpB", m.apply(api.OpB, "f", "g"), "g")
-		m.same("Ite", m.ite("f", "g", "h"), m.apply(api.OpOr, m.apply(api.OpAnd, "f", "g"), m.apply(api.OpLess, "f", "h")))
+		m.Same("OpXor of one file", m.apply(api.OpXor, "f", "f"), m.constant(n, false))
+		m.Same("OpA", m.apply(api.OpA, "f", "g"), "f")
+		m.Same("OpB", m.apply(api.OpB, "f", "g"), "g")
+		m.Same("Ite", m.ite("f", "g", "h"), m.apply(api.OpOr, m.apply(api.OpAnd, "f", "g"), m.apply(api.OpLess, "f", "h")))
 	})
 }
 
@@ -128,21 +97,21 @@ func TestFollowsOfQuantifiers(t *testing.T) {
 	each(t, func(r *bench.Dice, n int, x trio, m maker) {
 		for l := range n {
 			low, high := m.restrict("f", api.Lit{Level: l}), m.restrict("f", api.Lit{Level: l, Value: true})
-			m.same([]any{"Exists", l}, m.quantify(calc.Exists, "f", l), m.apply(api.OpOr, low, high))
-			m.same([]any{"Forall", l}, m.quantify(calc.Forall, "f", l), m.apply(api.OpAnd, low, high))
+			m.Same([]any{"Exists", l}, m.quantify(calc.Exists, "f", l), m.apply(api.OpOr, low, high))
+			m.Same([]any{"Forall", l}, m.quantify(calc.Forall, "f", l), m.apply(api.OpAnd, low, high))
 		}
 		for many := range n + 1 {
 			levels := r.Some(n, many)
 			cut := r.Below(many + 1)
 			for what, q := range map[string]quantifier{"Exists": calc.Exists, "Forall": calc.Forall} {
 				whole := m.quantify(q, "f", levels...)
-				m.same([]any{what, levels, cut}, whole, m.quantify(q, m.quantify(q, "f", levels[:cut]...), levels[cut:]...))
-				m.same([]any{what, levels, cut}, whole, m.quantify(q, m.quantify(q, "f", levels[cut:]...), levels[:cut]...))
+				m.Same([]any{what, levels, cut}, whole, m.quantify(q, m.quantify(q, "f", levels[:cut]...), levels[cut:]...))
+				m.Same([]any{what, levels, cut}, whole, m.quantify(q, m.quantify(q, "f", levels[cut:]...), levels[:cut]...))
 				turned := slices.Clone(levels)
 				slices.Reverse(turned)
-				m.same([]any{what, levels, turned}, whole, m.quantify(q, "f", turned...))
+				m.Same([]any{what, levels, turned}, whole, m.quantify(q, "f", turned...))
 			}
-			m.same("Forall and Exists", m.quantify(calc.Forall, "f", levels...), m.not(m.quantify(calc.Exists, m.not("f"), levels...)))
+			m.Same("Forall and Exists", m.quantify(calc.Forall, "f", levels...), m.not(m.quantify(calc.Exists, m.not("f"), levels...)))
 		}
 	})
 }
@@ -152,9 +121,9 @@ func TestFollowsOfRestrictAndCompose(t *testing.T) {
 	each(t, func(r *bench.Dice, n int, x trio, m maker) {
 		for l := range n {
 			low, high := m.restrict("f", api.Lit{Level: l}), m.restrict("f", api.Lit{Level: l, Value: true})
-			m.same([]any{"Compose", l}, m.compose("f", l, "g"), m.ite("g", high, low))
-			m.same([]any{"Compose with itself", l}, m.compose("f", l, "f"), m.ite("f", high, low))
-			m.same([]any{"Compose with the level", l}, m.compose("f", l, m.variable(n, l)), "f")
+			m.Same([]any{"Compose", l}, m.compose("f", l, "g"), m.ite("g", high, low))
+			m.Same([]any{"Compose with itself", l}, m.compose("f", l, "f"), m.ite("f", high, low))
+			m.Same([]any{"Compose with the level", l}, m.compose("f", l, m.variable(n, l)), "f")
 		}
 		for many := range n + 1 {
 			lits := r.Lits(n, many)
@@ -166,8 +135,8 @@ func TestFollowsOfRestrictAndCompose(t *testing.T) {
 				for _, lit := range list {
 					f = m.restrict(f, lit)
 				}
-				m.same(list, whole, f)
-				m.same(list, whole, m.restrict("f", list...))
+				m.Same(list, whole, f)
+				m.Same(list, whole, m.restrict("f", list...))
 			}
 		}
 	})
@@ -181,7 +150,7 @@ func TestFollowsOfRename(t *testing.T) {
 			still = append(still, l)
 		}
 		for i := range 3 {
-			m.same("Rename by 0, 1, 2 ..", m.rename(name(i), still), name(i))
+			m.Same("Rename by 0, 1, 2 ..", m.rename(name(i), still), name(i))
 			for range 6 {
 				to := x.goals(r, i)
 				once := m.rename(name(i), to)
@@ -190,7 +159,7 @@ func TestFollowsOfRename(t *testing.T) {
 				for l, goal := range to {
 					both[l] = then[goal]
 				}
-				m.same([]any{"Rename", to, then}, m.rename(once, then), m.rename(name(i), both))
+				m.Same([]any{"Rename", to, then}, m.rename(once, then), m.rename(name(i), both))
 			}
 		}
 	})
@@ -211,14 +180,14 @@ func TestLevelsThatNothingHangsOn(t *testing.T) {
 			var lits []api.Lit
 			for _, l := range levels {
 				lits = append(lits, api.Lit{Level: l, Value: r.Below(2) == 1})
-				m.same("Restrict", m.restrict(name(i), lits[len(lits)-1]), name(i))
-				m.same("Compose", m.compose(name(i), l, name((i+1)%3)), name(i))
-				m.same("Exists", m.quantify(calc.Exists, name(i), l), name(i))
-				m.same("Forall", m.quantify(calc.Forall, name(i), l), name(i))
+				m.Same("Restrict", m.restrict(name(i), lits[len(lits)-1]), name(i))
+				m.Same("Compose", m.compose(name(i), l, name((i+1)%3)), name(i))
+				m.Same("Exists", m.quantify(calc.Exists, name(i), l), name(i))
+				m.Same("Forall", m.quantify(calc.Forall, name(i), l), name(i))
 			}
-			m.same("Restrict by all", m.restrict(name(i), lits...), name(i))
-			m.same("Exists over all", m.quantify(calc.Exists, name(i), levels...), name(i))
-			m.same("Forall over all", m.quantify(calc.Forall, name(i), levels...), name(i))
+			m.Same("Restrict by all", m.restrict(name(i), lits...), name(i))
+			m.Same("Exists over all", m.quantify(calc.Exists, name(i), levels...), name(i))
+			m.Same("Forall over all", m.quantify(calc.Forall, name(i), levels...), name(i))
 		}
 	})
 	if free < 50 {

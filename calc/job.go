@@ -6,7 +6,7 @@ import (
 
 	"strata/api"
 	"strata/nodes"
-	"strata/reduce"
+	"strata/passage"
 	"strata/sweep"
 	"strata/tape"
 	"strata/whole"
@@ -48,24 +48,6 @@ func (j *job) temp() string {
 	return name
 }
 
-// arcs is a name for two tapes of arcs. Temp looks at that name alone, and tapes may be there that were left when the power went off.
-func (j *job) arcs() string {
-	for {
-		name := j.desk.Temp()
-		inner, outer := sweep.Inner(name), sweep.Outer(name)
-		if j.isThere(inner) || j.isThere(outer) {
-			continue
-		}
-		j.temps = append(j.temps, inner, outer)
-		return name
-	}
-}
-
-func (j *job) isThere(name string) bool {
-	_, _, e := j.desk.Disk().Length(name)
-	return e == api.OK
-}
-
 // drop deletes files that no later step reads: what goes through many steps needs no room for all of them at once.
 func (j *job) drop(names ...string) {
 	j.then(func() api.Errno {
@@ -76,10 +58,7 @@ func (j *job) drop(names ...string) {
 
 // reduced makes the node file of what a sweep makes.
 func (j *job) reduced(to string, down func(arcs string) api.Errno) {
-	arcs := j.arcs()
-	j.then(func() api.Errno { return down(arcs) })
-	j.then(func() api.Errno { return reduce.Reduce(j.desk, arcs, to) })
-	j.drop(sweep.Inner(arcs), sweep.Outer(arcs))
+	j.then(func() api.Errno { return passage.Through(j.desk, down, to) })
 }
 
 // fix sets levels of f to truths.

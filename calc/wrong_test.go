@@ -55,30 +55,14 @@ func TestAnyRecords(t *testing.T) {
 	r := bench.Dice(61)
 	const n = 4
 	for range 300 {
-		var lists [][]api.Rec
-		for range 3 {
-			var list []api.Rec
-			for range r.Below(4) {
-				list = append(list, r.AnyRecord())
-			}
-			ends := []api.Rec{bench.End(n, T, 0), bench.End(n, bench.At(r.Below(n), 0), len(list)), bench.End(n, bench.At(0, 0), 1<<62), bench.End(n, bench.At(3, 0), 1<<63-1)}
-			lists = append(lists, append(list, ends[r.Below(len(ends))]))
-		}
-		tryWrong(t, &r, n, 1+r.Below(2), lists...)
+		tryWrong(t, &r, n, 1+r.Below(2), r.AnyFile(n), r.AnyFile(n), r.AnyFile(n))
 	}
 }
 
 // TestNodesThatAreNotThere: files in rows, of which a low or a high is at a level that has no node, or has an id that is not there. G8.
 func TestNodesThatAreNotThere(t *testing.T) {
 	r := bench.Dice(62)
-	p := func(level, id int) uint64 { return uint64(bench.At(level, id)) }
-	leaf0, leaf1 := uint64(F), uint64(T)
-	for _, list := range [][]api.Rec{
-		{{p(0, 0), leaf0, p(2, 0)}, bench.End(4, bench.At(0, 0), 1)},
-		{{p(2, 0), leaf0, p(3, 5)}, {p(0, 0), p(1, 0), p(2, 0)}, bench.End(4, bench.At(0, 0), 2)},
-		{{p(3, 0), leaf0, leaf1}, {p(0, 0), leaf0, p(3, 1<<40-1)}, bench.End(4, bench.At(0, 0), 2)},
-		{{p(3, 0), leaf0, leaf1}, {p(1, 0), leaf0, leaf1}, {p(0, 0), p(1, 0), leaf1}, bench.End(4, bench.At(0, 0), 3)}, // nothing goes to 3:0
-	} {
+	for _, list := range bench.Gaps() {
 		for range 20 {
 			tryWrong(t, &r, 4, 1, list, list, list)
 		}

@@ -99,25 +99,6 @@ func anyTurns(r *bench.Dice, n int) []int {
 	return out
 }
 
-// spread is the node file in which each level of another one stands at a deeper place.
-func spread(list []api.Rec, n int, places []int) []api.Rec {
-	move := func(p uint64) uint64 {
-		if p >= 1<<63 {
-			return p
-		}
-		return uint64(bench.At(places[p>>40], int(p&(1<<40-1))))
-	}
-	out := slices.Clone(list)
-	last := len(out) - 1
-	for i := range out[:last] {
-		for w := range 3 {
-			out[i][w] = move(out[i][w])
-		}
-	}
-	out[last] = bench.End(n, api.Ptr(move(out[last][2])), last)
-	return out
-}
-
 // spread are the facts of the function that hangs on the levels at these places as the one they are told of hangs on its own; the turns are told anew.
 func (x facts) spread(n int, table []bool, places []int, turns []int) facts {
 	out := facts{n: n, paths: x.paths, density: x.density, turns: turns}

@@ -75,7 +75,7 @@ func TestLevelsWithoutNodes(t *testing.T) {
 		n, wide := r.Below(5), 5+r.Below(46)
 		table := r.Table(n)
 		places := slices.Sorted(slices.Values(r.Some(wide, n)))
-		list := spread(bench.Canon(n, table), wide, places)
+		list := bench.Spread(bench.Canon(n, table), wide, places)
 		x := factsOf(n, table, make([]int, n)).spread(wide, table, places, anyTurns(&r, wide))
 		x.tells(bench.Lie(t, 1+r.Below(4), bench.Files(list)...), "f")
 	}
@@ -90,7 +90,7 @@ func TestTheMostLevels(t *testing.T) {
 			table := r.Table(n)
 			x := factsOf(n, table, make([]int, n)).spread(most, table, places, make([]int, most))
 			x.turns, x.sum = nil, 0
-			x.tells(bench.Lie(t, 1, bench.Files(spread(bench.Canon(n, table), most, places))...), "f")
+			x.tells(bench.Lie(t, 1, bench.Files(bench.Spread(bench.Canon(n, table), most, places))...), "f")
 		}
 	}
 }

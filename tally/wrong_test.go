@@ -69,28 +69,13 @@ func TestAnyRecords(t *testing.T) {
 	r := bench.Dice(61)
 	const n = 4
 	for range 3000 {
-		var list []api.Rec
-		for range r.Below(4) {
-			list = append(list, r.AnyRecord())
-		}
-		ends := []api.Rec{bench.End(n, T, 0), bench.End(n, F, 0), bench.End(n, bench.At(r.Below(n), 0), len(list)), bench.End(n, bench.At(0, 0), 1<<62), bench.End(n, bench.At(3, 0), 1<<63-1), bench.End(most, bench.At(most-1, 0), len(list)), r.AnyRecord()}
-		tryWrong(t, 1+r.Below(2), n, append(list, ends[r.Below(len(ends))]))
+		tryWrong(t, 1+r.Below(2), n, r.AnyFile(n))
 	}
 }
 
 // TestNodesThatAreNotThere: files in rows, of which a low or a high is at a level that has no node, or has an id that is not there; or to which no arc goes. G8.
 func TestNodesThatAreNotThere(t *testing.T) {
-	p := func(level, id int) uint64 { return uint64(bench.At(level, id)) }
-	leaf0, leaf1 := uint64(F), uint64(T)
-	for _, list := range [][]api.Rec{
-		{{p(0, 0), leaf0, p(2, 0)}, bench.End(4, bench.At(0, 0), 1)},
-		{{p(0, 0), p(3, 0), p(2, 0)}, bench.End(4, bench.At(0, 0), 1)},
-		{{p(2, 0), leaf0, p(3, 5)}, {p(0, 0), p(1, 0), p(2, 0)}, bench.End(4, bench.At(0, 0), 2)},
-		{{p(3, 0), leaf0, leaf1}, {p(0, 0), leaf0, p(3, 1<<40-1)}, bench.End(4, bench.At(0, 0), 2)},
-		{{p(3, 0), leaf0, leaf1}, {p(0, 0), p(3, 0), p(3, 1)}, bench.End(4, bench.At(0, 0), 2)},
-		{{p(3, 0), leaf0, leaf1}, {p(1, 0), leaf0, leaf1}, {p(0, 0), p(1, 0), leaf1}, bench.End(4, bench.At(0, 0), 3)},                            // nothing goes to 3:0
-		{{p(3, 0), leaf0, leaf1}, {p(3, 1), leaf1, leaf0}, {p(1, 0), p(3, 1), leaf1}, {p(0, 0), p(1, 0), leaf1}, bench.End(4, bench.At(0, 0), 4)}, // nor here
-	} {
+	for _, list := range bench.Gaps() {
 		for k := 1; k < 4; k++ {
 			if refused := tryWrong(t, k, 4, list); refused < 4 {
 				t.Errorf("%v: only %d calls are refused", list, refused)
