@@ -73,20 +73,7 @@ func (j *job) choose(f, g, h, to string) {
 
 // write makes a node file of the nodes that add puts, and of the root that it tells.
 func (j *job) write(to string, add func(b *nodes.Builder) (api.Ptr, api.Errno)) {
-	j.then(func() api.Errno {
-		b, e := nodes.Begin(j.desk, to, j.vars)
-		if e != api.OK {
-			return e
-		}
-		root, e := add(b)
-		if e == api.OK {
-			e = b.Done(root)
-		}
-		if e != api.OK {
-			b.Drop() // its records are given back, where Done has not done so
-		}
-		return e
-	})
+	j.then(func() api.Errno { return passage.Write(j.desk, j.vars, add, to) })
 }
 
 // cube makes the conjunction of literals.

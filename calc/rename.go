@@ -5,15 +5,14 @@ import (
 	"slices"
 
 	"strata/api"
-	"strata/nodes"
-	"strata/recs"
+	"strata/passage"
 )
 
 // turns are the links that bring the levels that a diagram hangs on, which rise, to their goals. The first one takes all of them to the goals, in the order that they have; then one behind the other jumps to its place among them.
 func (j *job) turns(levels, goals []int) []link {
 	seats := slices.Sorted(slices.Values(goals))
 	links := []link{func(from, to string) {
-		j.relabel(from, to, shift{levels, func(place int) int { return seats[place] }})
+		j.relabel(from, to, levels, func(place int) int { return seats[place] })
 	}}
 	for _, m := range moves(goals) {
 		links = append(links, func(from, to string) { j.jump(seats, m, from, to) })
@@ -28,7 +27,7 @@ func (j *job) jump(seats []int, m move, from, to string) {
 		half := j.temp()
 		sides[side] = j.temp()
 		j.fix(from, []api.Lit{{Level: seats[m.from], Value: truth}}, half)
-		j.relabel(half, sides[side], shift{seats, func(place int) int { return seats[m.aside(place)] }})
+		j.relabel(half, sides[side], seats, func(place int) int { return seats[m.aside(place)] })
 		j.drop(half)
 	}
 	level := j.temp()
@@ -37,64 +36,17 @@ func (j *job) jump(seats []int, m move, from, to string) {
 	j.drop(level, sides[0], sides[1])
 }
 
-// relabel makes of a node file the same one with other levels. Their order stays, and so the ids do.
-func (j *job) relabel(from, to string, s shift) {
-	j.write(to, func(b *nodes.Builder) (api.Ptr, api.Errno) {
-		end, e := nodes.Look(j.desk, from)
-		if e != api.OK {
-			return 0, e
-		}
-		c, e := nodes.Up(j.desk, from)
-		if e != api.OK {
-			return 0, e
-		}
-		defer c.Close()
-		for {
-			node, some, e := c.Next()
-			if e != api.OK {
-				return 0, e
+// relabel makes of a node file the same one with other levels: those that rise, by their places, become others that do.
+func (j *job) relabel(from, to string, levels []int, goal func(place int) int) {
+	j.then(func() api.Errno {
+		return passage.Relabel(j.desk, from, j.vars, func(level int) (int, bool) {
+			place, there := slices.BinarySearch(levels, level)
+			if !there {
+				return 0, false
 			}
-			if !some {
-				return s.pointer(end.Root)
-			}
-			if e := s.add(b, node); e != api.OK {
-				return 0, e
-			}
-		}
+			return goal(place), true
+		}, to)
 	})
-}
-
-// shift gives levels, which rise, other ones that do, by their places.
-type shift struct {
-	levels []int
-	goal   func(place int) int
-}
-
-// add puts a node at its new level.
-func (s shift) add(b *nodes.Builder, node api.Node) api.Errno {
-	var now [3]api.Ptr
-	for i, p := range [3]api.Ptr{node.Self, node.Low, node.High} {
-		q, e := s.pointer(p)
-		if e != api.OK {
-			return e
-		}
-		now[i] = q
-	}
-	_, e := b.Add(recs.Level(now[0]), now[1], now[2])
-	return e
-}
-
-// pointer is a pointer with its new level.
-func (s shift) pointer(p api.Ptr) (api.Ptr, api.Errno) {
-	level, id, leaf, _, _ := recs.Split(p)
-	if leaf {
-		return p, api.OK
-	}
-	place, there := slices.BinarySearch(s.levels, level)
-	if !there { // a low or a high is at a level at which there is no node
-		return 0, api.ErrShape
-	}
-	return recs.Inner(s.goal(place), id)
 }
 
 // move is that of one thing in a row to another place: it is taken out, and put in so that it stands there.

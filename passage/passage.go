@@ -1,4 +1,4 @@
-// Package passage is what operations over node files go through: a sweep down, whose arcs are there for it alone, and a reduction up.
+// Package passage is what operations over node files go through: a sweep down, whose arcs are there for it alone, and a reduction up; or a builder, node by node.
 package passage
 
 import (
