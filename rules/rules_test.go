@@ -22,6 +22,9 @@ const mayImport = " bytes cmp container/heap errors iter maps math math/big math
 // mayNotSync are the names of package sync that the language leaves out.
 const mayNotSync = " Cond Map Pool OnceFunc OnceValue OnceValues NewCond Locker "
 
+// startsIn are the packages that have a func init, which fills one variable: the document asks for it there.
+const startsIn = " strata/console "
+
 // mostLines is how long a function may be.
 const mostLines = 60
 
@@ -107,12 +110,18 @@ func (r *reader) faults(c *code) []string {
 		p := r.fset.Position(at.Pos())
 		out = append(out, filepath.Base(p.Filename)+": "+what)
 	}
+	starts := 0
 	for _, f := range c.files {
 		tellImports(f, tell)
 		tellRemarks(f, tell)
 		for _, d := range f.Decls {
+			c.tellUses(d, tell)
 			switch x := d.(type) {
 			case *ast.FuncDecl:
+				if isStart(x) {
+					starts++
+					c.tellStart(x, starts, tell)
+				}
 				if r.fset.Position(x.End()).Line-r.fset.Position(x.Pos()).Line >= mostLines {
 					tell(x, "a function that is too long: "+x.Name.Name)
 				}
@@ -122,7 +131,6 @@ func (r *reader) faults(c *code) []string {
 				}
 			}
 		}
-		c.tellUses(f, tell)
 	}
 	return out
 }
@@ -213,17 +221,48 @@ func (c *code) writtenOut(e ast.Expr) bool {
 	return true
 }
 
+// isStart tells whether a declaration is a func init.
+func isStart(d ast.Decl) bool {
+	f, is := d.(*ast.FuncDecl)
+	return is && f.Recv == nil && f.Name.Name == "init"
+}
+
+// fills is the variable that an assignment of init fills; none, if it does anything else.
+func (c *code) fills(n ast.Node) string {
+	x, is := n.(*ast.AssignStmt)
+	if !is || x.Tok != token.ASSIGN || len(x.Lhs) != 1 {
+		return ""
+	}
+	if _, is := x.Lhs[0].(*ast.Ident); !is || !c.writtenOut(x.Rhs[0]) {
+		return ""
+	}
+	return c.packageLevel(x.Lhs[0])
+}
+
+// tellStart: only where it is asked for there is a func init, just one, and what it does is to fill one variable with a table that is written out.
+func (c *code) tellStart(f *ast.FuncDecl, many int, tell func(ast.Node, string)) {
+	if many > 1 || !strings.Contains(startsIn, " "+c.path+" ") {
+		tell(f, "a func init")
+	}
+	if len(f.Body.List) != 1 || c.fills(f.Body.List[0]) == "" {
+		tell(f, "a func init that does more than to fill one variable")
+	}
+}
+
 // tellUses: no package-level variable is assigned to, nor its address taken, in whatever form.
-func (c *code) tellUses(f *ast.File, tell func(ast.Node, string)) {
+func (c *code) tellUses(d ast.Decl, tell func(ast.Node, string)) {
 	change := func(e ast.Expr, what string) {
 		if name := c.packageLevel(e); name != "" {
 			tell(e, what+": "+name)
 		}
 	}
 	const assigned, address = "a package-level variable that is assigned to", "the address of a package-level variable"
-	ast.Inspect(f, func(n ast.Node) bool {
+	ast.Inspect(d, func(n ast.Node) bool {
 		switch x := n.(type) {
 		case *ast.AssignStmt:
+			if isStart(d) && c.fills(x) != "" {
+				break
+			}
 			for _, e := range x.Lhs {
 				change(e, assigned)
 			}
@@ -361,6 +400,11 @@ func TestTheRulesTell(t *testing.T) {
 		{head + "func f() { a := 1; a++; b := &a; *b = 2 }\n", ""},
 		{head + "//go:noinline\nfunc f() {}\n", "a line for the tools: //go:noinline"},
 		{head + "import \"sync\"\nfunc f() { var p sync.Pool; p.Get() }\n", "of package sync: Pool"},
+		{head + "var a = []int{}\nfunc init() { a = []int{1, 2} }\n", "a func init"},
+		{head + "var a, b = []int{}, []int{}\nfunc init() {\n a = []int{1}\n b = []int{2}\n}\n", "a func init that does more than to fill one variable"},
+		{head + "var a = []int{}\nfunc init() { a = append(a, 1) }\n", "a package-level variable that is assigned to: a"},
+		{head + "var a = [2]int{}\nfunc init() { a[0] = 1 }\n", "a package-level variable that is assigned to: a"},
+		{head + "var a = []int{}\nfunc f() { a = []int{1, 2} }\n", "a package-level variable that is assigned to: a"},
 		{head + "func f() {\n" + strings.Repeat("_ = 1\n", 60) + "}\n", "a function that is too long: f"},
 	} {
 		r := newReader("..")
